@@ -4,6 +4,7 @@ package leaks
 import (
 	"leaks/api"
 	"leaks/machine"
+	"leaks/pairs"
 	"leaks/source"
 )
 
@@ -24,11 +25,15 @@ func Check(s string, k int, l api.Limits) (int, api.Report) {
 	if !within(k, api.MaxK) || !within(l.Nodes, api.MaxLimit) || !within(l.Conflicts, api.MaxLimit) {
 		return api.Reject, api.Report{}
 	}
-	_, wrong := source.Read(s)
+	p, wrong := source.Read(s)
 	if wrong != 0 {
 		return api.Reject, api.Report{Line: wrong}
 	}
-	return api.Unknown, api.Report{}
+	pair, found := pairs.Find(p, k)
+	if found {
+		return api.Insecure, api.Report{First: pair.First, Second: pair.Second, At: pair.At}
+	}
+	return api.Secure, api.Report{}
 }
 
 func within(n, most int) bool {
