@@ -3,6 +3,8 @@ package leaks
 
 import (
 	"leaks/api"
+	"leaks/clauses"
+	"leaks/diagram"
 	"leaks/machine"
 	"leaks/pairs"
 	"leaks/source"
@@ -29,11 +31,17 @@ func Check(s string, k int, l api.Limits) (int, api.Report) {
 	if wrong != 0 {
 		return api.Reject, api.Report{Line: wrong}
 	}
+	d := diagram.Of(p, k)
+	f := clauses.Write(p, d)
+	r := api.Report{Vars: f.Vars, Formula: f.Text}
 	pair, found := pairs.Find(p, k)
-	if found {
-		return api.Insecure, api.Report{First: pair.First, Second: pair.Second, At: pair.At}
+	if !found {
+		return api.Secure, r
 	}
-	return api.Secure, api.Report{}
+	r.First = pair.First
+	r.Second = pair.Second
+	r.At = pair.At
+	return api.Insecure, r
 }
 
 func within(n, most int) bool {

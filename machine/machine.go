@@ -6,6 +6,9 @@ import (
 	"leaks/source"
 )
 
+// Bits: of a number that a step tells, those of the tag above those of the value.
+const Bits = 3 + api.Bits
+
 // state: at is the statement that comes next.
 type state struct {
 	slots   [source.MaxSlot]int
