@@ -7,10 +7,23 @@ import (
 	"leaks/source"
 )
 
-// Formula: Text has the clauses, a line each, over the variables 1 to Vars.
+// Formula: Text has the clauses, a line each, over the variables 1 to Vars; Bits has what is said of each bit that is told.
 type Formula struct {
-	Vars int
-	Text string
+	Vars    int
+	Clauses int // how many there are
+	Text    string
+	Bits    []Bit
+}
+
+// Bit: of a bit that is told, its node of the diagram, what it is in the first run and in the second, and whether these differ.
+type Bit struct {
+	Node                      int
+	First, Second, Difference Said
+}
+
+// Said: a variable, and the number of the first of the clauses that say what it is. The clauses are numbered from 1.
+type Said struct {
+	Variable, Clause int
 }
 
 // run: the variables that speak of one run.
@@ -36,10 +49,19 @@ func Write(p source.Program, d diagram.Diagram) Formula {
 	second.told = w.fresh(len(d.Told))
 	differences := w.fresh(len(d.Told))
 	w.writeNodes(d, &first, &second)
-	w.writeTold(d, first)
-	w.writeTold(d, second)
-	w.writeDifferences(first.told, second.told, differences)
-	return Formula{Vars: w.vars, Text: string(w.text)}
+	bits := make([]Bit, len(d.Told))
+	for i, node := range d.Told {
+		bits[i].Node = node
+		bits[i].First = w.writeTold(first.told[i], node, first)
+	}
+	for i, node := range d.Told {
+		bits[i].Second = w.writeTold(second.told[i], node, second)
+	}
+	for i, variable := range differences {
+		bits[i].Difference = w.writeDifference(variable, first.told[i], second.told[i])
+	}
+	w.writeAny(differences)
+	return Formula{Vars: w.vars, Clauses: w.count, Text: string(w.text), Bits: bits}
 }
 
 // writeNodes says of each run what the diagram's nodes say. A node that hangs on public inputs alone says the same of both, and has one variable.
@@ -68,10 +90,11 @@ func (w *writer) writeNode(variable int, node diagram.Node, r run) {
 	w.same(variable, node.High, r, -bit)
 }
 
-func (w *writer) writeTold(d diagram.Diagram, r run) {
-	for i, node := range d.Told {
-		w.same(r.told[i], node, r, 0)
-	}
+// writeTold says that a bit is told that is what a node says of a run.
+func (w *writer) writeTold(variable, node int, r run) Said {
+	said := Said{Variable: variable, Clause: w.count + 1}
+	w.same(variable, node, r, 0)
+	return said
 }
 
 // same says that a variable is what a node says, or else the literal unless is true (0: there is none).
@@ -87,18 +110,20 @@ func (w *writer) same(variable, node int, r run, unless int) {
 	}
 }
 
-// writeDifferences writes the clauses that P8 has at the end, literal by literal.
-func (w *writer) writeDifferences(first, second, differences []int) {
-	for i, d := range differences {
-		a := first[i]
-		b := second[i]
-		w.clause(-d, a, b)
-		w.clause(-d, -a, -b)
-		w.clause(d, -a, b)
-		w.clause(d, a, -b)
-	}
-	for _, d := range differences {
-		w.literal(d)
+// writeDifference says that d is whether a and b differ, literal by literal as P8 has it.
+func (w *writer) writeDifference(d, a, b int) Said {
+	said := Said{Variable: d, Clause: w.count + 1}
+	w.clause(-d, a, b)
+	w.clause(-d, -a, -b)
+	w.clause(d, -a, b)
+	w.clause(d, a, -b)
+	return said
+}
+
+// writeAny says that one of some variables is true, or more.
+func (w *writer) writeAny(variables []int) {
+	for _, v := range variables {
+		w.literal(v)
 	}
 	w.end()
 }

@@ -1,6 +1,7 @@
 package clauses
 
 import (
+	"slices"
 	"strings"
 	"testing"
 
@@ -39,11 +40,20 @@ func TestP8Write(t *testing.T) {
 	if f.Vars != 37 || f.Text != want {
 		t.Errorf("P8: %d variables,\n%s\nwant 37,\n%s", f.Vars, f.Text, want)
 	}
+	bits := []Bit{
+		{2, Said{21, 17}, Said{25, 23}, Said{29, 29}},
+		{4, Said{22, 19}, Said{26, 25}, Said{30, 33}},
+		{diagram.True, Said{23, 21}, Said{27, 27}, Said{31, 37}},
+		{diagram.False, Said{24, 22}, Said{28, 28}, Said{32, 41}},
+	}
+	if f.Clauses != 45 || !slices.Equal(f.Bits, bits) {
+		t.Errorf("P9: %d clauses, %v, want 45, %v", f.Clauses, f.Bits, bits)
+	}
 }
 
 func TestP8WriteNothingTold(t *testing.T) {
 	p := source.Program{Secret: []bool{false, true}}
-	if f := Write(p, diagram.Diagram{Nodes: make([]diagram.Node, 2)}); f.Vars != 12 || f.Text != "0\n" {
-		t.Errorf("P8: %d variables, %q", f.Vars, f.Text)
+	if f := Write(p, diagram.Diagram{Nodes: make([]diagram.Node, 2)}); f.Vars != 12 || f.Text != "0\n" || f.Clauses != 1 || len(f.Bits) != 0 {
+		t.Errorf("P8: %v", f)
 	}
 }

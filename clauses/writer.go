@@ -2,10 +2,11 @@ package clauses
 
 import "strconv"
 
-// writer: the clauses so far, and the variables that are taken.
+// writer: the clauses so far, how many they are, and the variables that are taken.
 type writer struct {
-	vars int
-	text []byte
+	vars  int
+	count int
+	text  []byte
 }
 
 // fresh gives so many new variables.
@@ -36,4 +37,5 @@ func (w *writer) literal(l int) {
 
 func (w *writer) end() {
 	w.text = append(w.text, '0', '\n')
+	w.count++
 }

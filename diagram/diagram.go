@@ -11,6 +11,8 @@ import (
 const (
 	False = 0
 	True  = 1
+
+	undecided = 2 // how many these are
 )
 
 // Node: what node Low says, if bit Bit of the inputs is 0, else what node High says. The bits are numbered input by input, the lowest of each first.
@@ -26,8 +28,13 @@ type Diagram struct {
 	Told  []int
 }
 
-// Of gives the diagram of the first k steps.
-func Of(p source.Program, k int) Diagram {
+// Decisions: how many nodes there are beside False and True.
+func (d Diagram) Decisions() int {
+	return len(d.Nodes) - undecided
+}
+
+// Of gives the diagram of the first k steps. It is false, and there is none, if there would be more than most decisions (0: they may be any number).
+func Of(p source.Program, k, most int) (Diagram, bool) {
 	bits := order(len(p.Secret))
 	runs := tellAll(p, bits, k)
 	m := begin(p, bits, len(runs))
@@ -37,9 +44,12 @@ func Of(p source.Program, k int) Diagram {
 			m.lay(runs, step, bit)
 			node := m.fold()
 			told = append(told, node)
+			if most != 0 && len(m.nodes)-undecided > most {
+				return Diagram{}, false
+			}
 		}
 	}
-	return Diagram{Nodes: m.nodes, Told: told}
+	return Diagram{Nodes: m.nodes, Told: told}, true
 }
 
 // order gives the bits in the order of the levels, from the lowest level up. Bits of the same place stand together, for sums and comparisons have far smaller diagrams that way.

@@ -1,6 +1,7 @@
 package diagram
 
 import (
+	"reflect"
 	"slices"
 	"strings"
 	"testing"
@@ -28,7 +29,11 @@ func each(t *testing.T, f func(s string, p source.Program, d Diagram)) {
 		if wrong != 0 {
 			t.Fatalf("P3: %q: line %d", s, wrong)
 		}
-		f(s, p, Of(p, 8))
+		d, ok := Of(p, 8, 0)
+		if !ok {
+			t.Fatalf("P10: %q: too many nodes, without a limit", s)
+		}
+		f(s, p, d)
 	}
 }
 
@@ -98,7 +103,7 @@ func TestP8Secret(t *testing.T) {
 // However it is computed: the same function, the same node.
 func TestP8SameNode(t *testing.T) {
 	p, _ := source.Read("secret a\npublic b\nvar x\nx = a | b\nx = x - a\nx = x + a\nx = x & b\nout x\nout b\n")
-	d := Of(p, 6)
+	d, _ := Of(p, 6, 0)
 	if told := d.Told[4*7 : 5*7]; !slices.Equal(told, d.Told[5*7:]) || d.Nodes[told[0]].Secret {
 		t.Errorf("P8: %v", d)
 	}
@@ -106,8 +111,34 @@ func TestP8SameNode(t *testing.T) {
 
 func TestP8NoSteps(t *testing.T) {
 	each(t, func(s string, p source.Program, _ Diagram) {
-		if d := Of(p, 0); len(d.Told) != 0 || len(d.Nodes) != 2 {
+		if d, _ := Of(p, 0, 0); len(d.Told) != 0 || len(d.Nodes) != 2 {
 			t.Errorf("P8: %q: %v", s, d)
+		}
+	})
+}
+
+// A limit is met at just as many nodes as there are, and no node more; then there is no diagram.
+func TestP10Nodes(t *testing.T) {
+	each(t, func(s string, p source.Program, whole Diagram) {
+		n := whole.Decisions()
+		if n != len(whole.Nodes)-2 {
+			t.Fatalf("P10: %q: %d nodes of %d decide", s, n, len(whole.Nodes))
+		}
+		for most := 1; most <= n+2; most++ {
+			d, ok := Of(p, 8, most)
+			if ok != (most >= n) {
+				t.Fatalf("P10: %q: Of with at most %d of %d nodes: %v", s, most, n, ok)
+			}
+			want := Diagram{}
+			if ok {
+				want = whole
+			}
+			if !reflect.DeepEqual(d, want) {
+				t.Fatalf("P10: %q: with at most %d of %d nodes: %v", s, most, n, d)
+			}
+			if most == 5 && n > 20 {
+				most = n - 5
+			}
 		}
 	})
 }

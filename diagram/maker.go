@@ -19,9 +19,9 @@ func begin(p source.Program, bits []int, runs int) maker {
 	return maker{
 		program: p,
 		bits:    bits,
-		nodes:   make([]Node, 2),
+		nodes:   make([]Node, undecided),
 		heads:   make([]int, runs),
-		behind:  make([]int, 2),
+		behind:  make([]int, undecided),
 		row:     make([]int, runs),
 	}
 }

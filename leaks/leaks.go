@@ -7,6 +7,7 @@ import (
 	"leaks/diagram"
 	"leaks/machine"
 	"leaks/pairs"
+	"leaks/proof"
 	"leaks/source"
 )
 
@@ -31,17 +32,26 @@ func Check(s string, k int, l api.Limits) (int, api.Report) {
 	if wrong != 0 {
 		return api.Reject, api.Report{Line: wrong}
 	}
-	d := diagram.Of(p, k)
-	f := clauses.Write(p, d)
-	r := api.Report{Vars: f.Vars, Formula: f.Text}
-	pair, found := pairs.Find(p, k)
-	if !found {
-		return api.Secure, r
+	d, fits := diagram.Of(p, k, l.Nodes)
+	if !fits {
+		return api.Unknown, api.Report{}
 	}
-	r.First = pair.First
-	r.Second = pair.Second
-	r.At = pair.At
-	return api.Insecure, r
+	f := clauses.Write(p, d)
+	r := api.Report{Vars: f.Vars, Formula: f.Text, Nodes: d.Decisions()}
+	pair, found := pairs.Find(p, k)
+	if found {
+		r.First = pair.First
+		r.Second = pair.Second
+		r.At = pair.At
+		return api.Insecure, r
+	}
+	none, fits := proof.Write(f, l.Conflicts)
+	if !fits {
+		return api.Unknown, api.Report{}
+	}
+	r.Proof = none.Text
+	r.Conflicts = none.Lines
+	return api.Secure, r
 }
 
 func within(n, most int) bool {
